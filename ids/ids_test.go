@@ -12,6 +12,7 @@ import (
 	"saddlebag/api"
 	"saddlebag/lay"
 	"saddlebag/sha"
+	"saddlebag/short"
 )
 
 // Four ids that rise: unlike in the first byte, in the last one, and around 80 (hex).
@@ -34,23 +35,6 @@ func many(n int) []Id {
 	var out []Id
 	for i := range n {
 		out = append(out, sha.Of([]byte{byte(i), byte(i >> 8), byte(i >> 16)}))
-	}
-	return out
-}
-
-// lists tells every list of at most so many of the ids: right ones, and those that fall, or have an id twice.
-func lists(of []Id, most int) []Set {
-	out := []Set{nil, {}}
-	last := []Set{nil}
-	for range most {
-		var next []Set
-		for _, l := range last {
-			for _, i := range of {
-				next = append(next, append(slices.Clone(l), i))
-			}
-		}
-		out = append(out, next...)
-		last = next
 	}
 	return out
 }
@@ -183,7 +167,7 @@ func TestOf(t *testing.T) {
 	if got := Of([]Id(nil)...); len(got) != 0 {
 		t.Errorf("of nil: %x", got)
 	}
-	for _, l := range lists([]Id{idA, idB, idC, idD}, 4) {
+	for _, l := range short.Lists(Set{idA, idB, idC, idD}, 4) {
 		want := meant(func(Id) bool { return true }, l)
 		if got := Of(l...); !slices.Equal(got, want) {
 			t.Errorf("%x: %x, not %x", l, got, want)
@@ -224,7 +208,7 @@ func TestRight(t *testing.T) {
 			t.Errorf("%s: %t", c.name, got)
 		}
 	}
-	for _, l := range lists([]Id{idA, idB, idC}, 4) {
+	for _, l := range short.Lists(Set{idA, idB, idC}, 4) {
 		want := slices.Equal(l, meant(func(Id) bool { return true }, l))
 		if got := l.Right(); got != want {
 			t.Errorf("%x: %t", l, got)
@@ -234,7 +218,7 @@ func TestRight(t *testing.T) {
 
 // P3.2: Has finds an id wherever it stands, also where they do not rise, and none behind the end.
 func TestHas(t *testing.T) {
-	for _, l := range lists([]Id{idA, idB, idC, idD}, 4) {
+	for _, l := range short.Lists(Set{idA, idB, idC, idD}, 4) {
 		for _, i := range []Id{idA, idB, idC, idD, {}} {
 			if got := l.Has(i); got != contains(l, i) {
 				t.Errorf("%x has %x: %t", l, i, got)
@@ -256,7 +240,7 @@ func TestHas(t *testing.T) {
 
 // P3.3: With and Without, of every short list.
 func TestWithWithout(t *testing.T) {
-	for _, s := range lists([]Id{idA, idB, idC}, 4) {
+	for _, s := range short.Lists(Set{idA, idB, idC}, 4) {
 		for _, i := range []Id{{}, idA, idB, idC, idD} {
 			with := meant(func(Id) bool { return true }, s, Set{i})
 			if got := s.With(i); !slices.Equal(got, with) {
@@ -299,7 +283,7 @@ func checkTwo(t *testing.T, s, o Set) {
 
 // P3.3: every pair of short lists: right ones, others, nil and empty ones.
 func TestTwoSets(t *testing.T) {
-	all := lists([]Id{idA, idB, idC}, 3)
+	all := short.Lists(Set{idA, idB, idC}, 3)
 	all = append(all, Set{idD}, Set{idA, idB, idC, idD}, Set{idD, idC, idB, idA}, Set{idA, idD, idD, idB})
 	for _, s := range all {
 		for _, o := range all {
@@ -322,7 +306,7 @@ func TestTwoGreatSets(t *testing.T) {
 
 // P3.4: the ids as they stand, also where they do not rise, or stand twice.
 func TestAll(t *testing.T) {
-	for _, s := range lists([]Id{idA, idB, idC}, 4) {
+	for _, s := range short.Lists(Set{idA, idB, idC}, 4) {
 		seq := s.All()
 		for range 2 { // a sequence may be gone through again
 			if got := slices.Collect(seq); !slices.Equal(got, s) {
@@ -402,7 +386,7 @@ func TestPut(t *testing.T) {
 	if got := Put(Set{}); string(got) != "\x00" {
 		t.Errorf("empty: %x", got)
 	}
-	for _, s := range append(lists([]Id{idA, idB, idD}, 3), many(255), many(256), many(1000)) {
+	for _, s := range append(short.Lists(Set{idA, idB, idD}, 3), many(255), many(256), many(1000)) {
 		want := lay.PutNumber(nil, uint64(len(s)))
 		for _, i := range s {
 			want = append(want, i[:]...)
@@ -415,7 +399,7 @@ func TestPut(t *testing.T) {
 
 // P3.5: what is put is read, if it is right and not above most; and then just so.
 func TestPutIsRead(t *testing.T) {
-	all := lists([]Id{idA, idB, idD}, 4)
+	all := short.Lists(Set{idA, idB, idD}, 4)
 	all = append(all, Of(many(255)...), Of(many(256)...), Of(many(1024)...), many(300))
 	for _, s := range all {
 		for _, most := range []int{len(s) - 1, len(s), len(s) + 1, math.MaxInt} {
@@ -512,7 +496,7 @@ func handed() map[string]func(s, o Set) Set {
 
 // P3.2 to P3.4, rule 4: what is handed in does not change, nor its spare room; what is handed out is new memory, spare room too.
 func TestListsAreCopies(t *testing.T) {
-	all := lists([]Id{idA, idB, idC}, 3)
+	all := short.Lists(Set{idA, idB, idC}, 3)
 	for name, call := range handed() {
 		for _, s := range all {
 			for _, o := range []Set{nil, {}, {idA}, {idB, idA}, {idA, idB, idC}, s} {
