@@ -598,7 +598,7 @@ func forget() {
 	places = [size]int{}
 }
 
-// Ways: the tables are there, whichever call asks for them first.
+// Ways: each answer is right, whichever call comes first, and asks for the tables or not.
 func TestFirstAsked(t *testing.T) {
 	f := New()
 	for name, right := range map[string]func() bool{
@@ -624,11 +624,67 @@ func TestFirstAsked(t *testing.T) {
 // Ways: the tables are made once: nothing writes them again.
 func TestMadeOnce(t *testing.T) {
 	f := New()
-	f.Mul(2, 2)
-	powers[8], places[8] = 0, 0
 	defer forget()
-	if f.Exp(8) != 0 || f.Log(8) != 0 || New().Log(8) != 0 || New().Exp(8) != 0 {
-		t.Error("the tables were made again")
+	for _, spoilt := range []func(){func() { powers[8] = 0 }, func() { places[2] = 254 }} {
+		forget()
+		f.Times([]byte{2}, []byte{2})
+		spoilt()
+		if bytes.Equal(f.Times([]byte{2}, []byte{0x80}), []byte{0x1d}) || bytes.Equal(New().Times([]byte{2}, []byte{0x80}), []byte{0x1d}) {
+			t.Error("the tables were made again, or are not read")
+		}
+	}
+}
+
+// P4.1 to P4.3: these calls work their answers out: they are right beside tables that are not, and none of them makes the tables.
+func TestWithoutTables(t *testing.T) {
+	defer forget()
+	forget()
+	checkWithoutTables(t)
+	if powers != [cycle]byte{} || places != [size]int{} {
+		t.Error("the tables were made")
+	}
+	New().Times([]byte{2}, []byte{2})
+	for i := range powers {
+		powers[i] = 0xa5
+	}
+	for i := range places {
+		places[i] = -1
+	}
+	checkWithoutTables(t)
+}
+
+func checkWithoutTables(t *testing.T) {
+	t.Helper()
+	for name, f := range fields() {
+		for a := range 256 {
+			x, y := byte(a), byte(a*7+3)
+			l, m := []byte{x, y, 0, 1}, []byte{y, 0x80, 5}
+			if f.Add(x, y) != x^y || f.Mul(x, y) != meantMul(x, y) || f.Inv(x) != meantInv(x) || f.Div(x, y) != meantMul(x, meantInv(y)) {
+				t.Fatalf("%s: Add, Mul, Inv or Div of %x and %x", name, x, y)
+			}
+			if f.Power(x, a-128) != meantPower(x, a-128) || f.Exp(a-128) != meantPower(2, a-128) {
+				t.Fatalf("%s: Power or Exp, %d times", name, a-128)
+			}
+			if n := f.Log(x); a == 0 && n != -1 || a != 0 && meantPower(2, n) != x {
+				t.Fatalf("%s: Log(%x): %d", name, x, n)
+			}
+			if f.Eval(l, x) != meantEval(l, x) || f.Dot(l, m) != meantDot(l, m) || !bytes.Equal(f.Scale(l, x), meantScale(l, x)) || !bytes.Equal(f.Sum(l, m), meantSum(l, m)) {
+				t.Fatalf("%s: Eval, Dot, Scale or Sum of %x and %x", name, l, m)
+			}
+		}
+	}
+}
+
+// P4.5: a product of polynomials of one number each, by the tables, is the product of the numbers, for every pair.
+func TestTimesEveryPair(t *testing.T) {
+	for name, f := range fields() {
+		for a := range 256 {
+			for b := range 256 {
+				if got := f.Times([]byte{byte(a)}, []byte{byte(b)}); len(got) != 1 || got[0] != meantMul(byte(a), byte(b)) {
+					t.Fatalf("%s: Times of %x and %x: %x", name, a, b, got)
+				}
+			}
+		}
 	}
 }
 
@@ -640,10 +696,9 @@ func TestFirstAskedByMany(t *testing.T) {
 		wrong := make([]bool, 16)
 		for i := range wrong {
 			group.Go(func() {
-				for a := 1; a < 256; a++ {
-					if New().Mul(byte(a), 0x8e) != meantMul(byte(a), 0x8e) {
-						wrong[i] = true
-					}
+				all := every(1, 256)
+				if !bytes.Equal(New().Times(all, []byte{0x8e}), meantScale(all, 0x8e)) {
+					wrong[i] = true
 				}
 			})
 		}
