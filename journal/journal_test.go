@@ -50,6 +50,30 @@ func meantPlaces(epoch, seq uint64, c []Change) [][]byte {
 	return append(out, meantSeal(2, epoch, seq, nil))
 }
 
+// meantIsSealed tells whether a block is sealed, by the words.
+func meantIsSealed(b []byte) bool {
+	long := int(binary.BigEndian.Uint16(b[17:]))
+	if b[0] == 0 || b[0] == 3 || long > 220 || !bytes.Equal(b[:17], b[239:]) {
+		return false
+	}
+	return bytes.Equal(b, meantSeal(b[0], binary.BigEndian.Uint64(b[1:]), binary.BigEndian.Uint64(b[9:]), b[19:19+long]))
+}
+
+// meantMixes tells whether first bytes of a sealed block, ahead of what was there, are one that is neither; or whether what was there has its mark.
+func meantMixes(sealed, was []byte) bool {
+	if meantIsSealed(was) && bytes.Equal(was[:17], sealed[:17]) {
+		return true
+	}
+	torn := bytes.Clone(was)
+	for k := range 256 {
+		if meantIsSealed(torn) && !bytes.Equal(torn, sealed) && !bytes.Equal(torn, was) {
+			return true
+		}
+		torn[k] = sealed[k]
+	}
+	return false
+}
+
 // call is a write of a device, or a flush, where there are no bytes.
 type call struct {
 	n int
@@ -128,6 +152,7 @@ func (m *model) commit(c []Change) api.Errno {
 		m.settle()
 	}
 	places := meantPlaces(m.epoch, m.seq, c)
+	m.blank(places)
 	for i, b := range places {
 		if i == len(places)-1 {
 			m.flush()
@@ -143,6 +168,20 @@ func (m *model) commit(c []Change) api.Errno {
 	m.used += len(places)
 	m.seq++
 	return api.OK
+}
+
+// blank lets a first place, or a last one, be bytes 0 and flushed where it may be mixed with what is there. Nothing of it is to be seen behind a Commit.
+func (m *model) blank(places [][]byte) {
+	blanks := 0
+	for _, i := range []int{0, len(places) - 1} {
+		if n := 2 + (m.pos+i)%m.log; meantMixes(places[i], m.blocks[n]) {
+			m.write(n, full(0))
+			blanks++
+		}
+	}
+	if blanks > 0 {
+		m.flush()
+	}
 }
 
 // meantFormat tells the device behind a Format, and what that let it do.
@@ -411,9 +450,12 @@ func fresh(t testing.TB, log, home int) *pair {
 func (p *pair) copied() *pair {
 	l := *p.l
 	l.d = p.d.Clone()
-	l.waits = map[int][]byte{}
+	l.waits, l.alike = map[int][]byte{}, map[int][]byte{}
 	for n, b := range p.l.waits {
 		l.waits[n] = bytes.Clone(b)
+	}
+	for n, b := range p.l.alike {
+		l.alike[n] = bytes.Clone(b)
 	}
 	return &pair{l.d, &l, p.m.copied()}
 }
@@ -1285,6 +1327,126 @@ func TestFallsWithinBoth(t *testing.T) {
 	}
 }
 
+// likeSealed tells sealed blocks of each kind that a transaction's places have, of marks from this one on. Covered, each is one that a sealed block of another mark makes sealed again, where but its first byte is kept.
+func likeSealed(epoch, seq uint64) [][]byte {
+	var out [][]byte
+	for e := range uint64(3) {
+		for s := range uint64(3) {
+			out = append(out, meantSeal(1, epoch+e, seq+s, nil), meantSeal(1, epoch+e, seq+s, []byte{0, 1, 9}), meantSeal(2, epoch+e, seq+s, nil))
+		}
+	}
+	return out
+}
+
+// whole does an act that is no Open, with a fall, opens the log again, and holds that the act is there whole, or not at all; and that this stays.
+func (p *pair) whole(t testing.TB, a act, at int, keep []int) {
+	t.Helper()
+	was, after := p.m.home, p.m.after(a)
+	p.fall(t, a, at, keep)
+	p.reopen(t, "behind the fall")
+	now := p.m.home
+	if !same(now, was) && !same(now, after.home) {
+		t.Fatalf("armed %d, kept %v: neither all nor nothing", at, keep)
+	}
+	p.reopen(t, "opened again")
+	if !same(p.m.home, now) {
+		t.Fatalf("armed %d, kept %v: opened again it is another one", at, keep)
+	}
+}
+
+// P10.7: blocks for use that are told as sealed ones, once torn over: each of two transactions behind them falls at each call, where these have the same places.
+func TestFallsOverLikeSealed(t *testing.T) {
+	for i, b := range likeSealed(2, 1) {
+		if testing.Short() && i%3 != 2 {
+			continue
+		}
+		p := fresh(t, 6, 6)
+		p.do(t, "ahead", act{c: []Change{{0, b}, {3, b}}})
+		one, two := act{c: []Change{{1, full(7)}, {4, full(7)}}}, act{c: []Change{{2, full(9)}, {5, full(9)}}}
+		for at := range p.m.after(one).calls {
+			for _, keep := range [][]int{nil, {1}, {16}, {1, 256, 1}} {
+				q := p.copied()
+				q.fall(t, one, at, keep)
+				q.reopen(t, "behind the first fall")
+				for then := range q.m.after(two).calls {
+					for _, keep := range [][]int{{256}, {1, 256, 256}} {
+						q.copied().whole(t, two, then, keep)
+					}
+				}
+			}
+		}
+	}
+}
+
+// P10.4, P10.7: whatever was in the log ahead of a transaction: behind a Commit its places are just its own, and behind a fall at any call it is there whole, or not at all.
+func TestCommitOverAny(t *testing.T) {
+	first, last := meantSeal(1, 2, 1, []byte{0, 1, 9}), meantSeal(2, 2, 1, nil)
+	covered := func(b []byte) []byte { return slices.Concat([]byte{3}, b[1:]) }
+	pool := [][]byte{full(3), first, last, covered(first), covered(last), meantSeal(2, 1, 1, nil)}
+	a := act{c: changes(1, 2, 0)}
+	most := 4
+	if testing.Short() {
+		most = 3
+	}
+	for _, was := range short.Lists(pool, most) {
+		blocks := slices.Repeat([][]byte{full(3)}, 2+4+3)
+		copy(blocks[2:], was)
+		d := device(t, blocks)
+		wants(t, "Format", Format(d, 4), api.OK)
+		p := opened(t, "over any", d, meantFormat(blocks, 4).blocks)
+		if next, _ := meantOpen(p.m.blocks); next.seq != p.m.seq {
+			continue // A transaction of the next epoch, which no log has behind its own acts, was there: it is taken, once that comes.
+		}
+		after := p.m.after(a)
+		for at := range after.calls {
+			for _, keep := range [][]int{nil, {1, 256, 256}, {256, 0, 256}, {19, 1}} {
+				p.copied().whole(t, a, at, keep)
+			}
+		}
+		p.do(t, "over any", a)
+		for i, b := range meantPlaces(2, 1, a.c) {
+			if got, _ := d.Read(2 + i); !bytes.Equal(got, b) {
+				t.Fatalf("place %d is %x, not %x", i, got, b)
+			}
+		}
+	}
+}
+
+// P10.4: what a Commit calls its device for: its places, and two flushes, also over places that were in use; a write and a flush more just where a torn place could be taken for a sealed one.
+func TestCommitCalls(t *testing.T) {
+	calls := func(b []byte) int {
+		p := fresh(t, 4, 3)
+		p.do(t, "ahead", act{c: []Change{{1, b}, {0, b}}})
+		p.do(t, "settled", act{})
+		// The log is gone round: the first place is that of a first one, and the last place that of a block.
+		ops := p.d.Ops()
+		wants(t, "Commit", p.l.Commit(changes(1, 1)), api.OK)
+		return p.d.Ops() - ops
+	}
+	for c := range 256 {
+		if got := calls(full(byte(c))); got != 5 {
+			t.Fatalf("over blocks of bytes %d: %d calls", c, got)
+		}
+	}
+	for _, c := range []struct {
+		b    []byte
+		want int
+	}{
+		{meantSeal(1, 2, 9, nil), 5},
+		{meantSeal(3, 2, 9, nil), 5},
+		{meantSeal(2, 2, 9, nil), 7},
+		{meantSeal(2, 7, 9, []byte{1}), 7},
+		{meantSeal(2, 1<<56, 9, nil), 7},
+		{slices.Concat([]byte{77}, meantSeal(2, 7, 9, nil)[1:]), 7},
+		{slices.Concat(meantSeal(2, 7, 9, nil)[:255], []byte{8}), 5},
+		{slices.Concat(meantSeal(2, 7, 9, nil)[:100], full(1)[:100], meantSeal(2, 7, 9, nil)[200:]), 5},
+	} {
+		if got := calls(c.b); got != c.want {
+			t.Errorf("over blocks %x: %d calls, not %d", c.b, got, c.want)
+		}
+	}
+}
+
 // P10.7: of the last write each number of bytes, and of two writes of a Commit each two edges.
 func TestFallsAtBytes(t *testing.T) {
 	p := fresh(t, 4, 2)
@@ -1329,8 +1491,13 @@ func drive(t testing.TB, pick func(n int) int, steps int) {
 		case 1:
 		default:
 			most := min(home, 1+pick(log))
+			like := likeSealed(p.m.epoch, p.m.seq)
 			for n := range most {
-				a.c = append(a.c, Change{(n*7 + step) % home, mixed(100*step + n)})
+				b := mixed(100*step + n)
+				if pick(3) == 0 {
+					b = like[pick(len(like))]
+				}
+				a.c = append(a.c, Change{(n*7 + step) % home, b})
 			}
 			if pick(10) == 0 {
 				a.c[pick(len(a.c))].N = pick(home+3) - 1
@@ -1364,11 +1531,7 @@ func (p *pair) step(t testing.TB, a act, at int, keep []int) {
 		p.do(t, "by chance", a)
 		return
 	}
-	p.fall(t, a, at, keep)
-	p.reopen(t, "behind the fall")
-	if !same(p.m.home, was) && !same(p.m.home, after.home) {
-		t.Fatal("behind the fall: neither all nor nothing")
-	}
+	p.whole(t, a, at, keep)
 }
 
 // P10.2 to P10.7: long runs by chance, with falls.
